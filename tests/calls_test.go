@@ -5,6 +5,8 @@ import (
 	"reflect"
 	"slices"
 	"testing"
+
+	"loop.example/g01158/impl"
 )
 
 // filler is what lies behind the elements of a slice that is passed, up to its capacity.
@@ -230,4 +232,31 @@ func checkCalls(t *testing.T, name string, function any, pools []any, see func(a
 		}
 	}
 	choose()
+}
+
+type named struct {
+	name     string
+	function any
+}
+
+// checkTotal calls some functions with all arguments out of pools. Each one must succeed for some
+// of them, and fail for all Mazes that are not valid.
+func checkTotal(t *testing.T, functions []named, pools []any) {
+	t.Helper()
+	for _, f := range functions {
+		succeeds := 0
+		checkCalls(t, f.name, f.function, pools, func(args []any, ok bool) {
+			for _, arg := range args {
+				if m, is := arg.(impl.Maze); is && !plainIsMaze(m) && ok {
+					t.Fatal(f.name, "does not fail for", textOf(m))
+				}
+			}
+			if ok {
+				succeeds++
+			}
+		})
+		if succeeds == 0 {
+			t.Error(f.name, "always fails")
+		}
+	}
 }

@@ -915,28 +915,10 @@ func mazePools() []any {
 }
 
 func TestMazesAreTotal(t *testing.T) {
-	for _, c := range []struct {
-		name     string
-		function any
-	}{
+	checkTotal(t, []named{
 		{"IsMaze", impl.IsMaze}, {"SetOf", impl.SetOf}, {"ColoursOf", impl.ColoursOf}, {"DoorsAt", impl.DoorsAt}, {"IsOpenTo", impl.IsOpenTo},
 		{"ReachWith", impl.ReachWith}, {"IsKeyWalk", impl.IsKeyWalk}, {"TakenOn", impl.TakenOn}, {"LeastNeeds", impl.LeastNeeds}, {"MirrorMaze", impl.MirrorMaze},
 		{"NumberMaze", impl.NumberMaze}, {"JoinMazes", impl.JoinMazes}, {"FreeColours", impl.FreeColours}, {"BarColours", impl.BarColours}, {"AddDoor", impl.AddDoor},
 		{"DropDoor", impl.DropDoor}, {"PutKeys", impl.PutKeys}, {"RepaintMaze", impl.RepaintMaze}, {"MazeText", impl.MazeText}, {"ParseMaze", impl.ParseMaze},
-	} {
-		succeeds := 0
-		checkCalls(t, c.name, c.function, mazePools(), func(args []any, ok bool) {
-			for _, arg := range args {
-				if m, is := arg.(impl.Maze); is && !plainIsMaze(m) && ok {
-					t.Fatal(c.name, "does not fail for", textOf(m))
-				}
-			}
-			if ok {
-				succeeds++
-			}
-		})
-		if succeeds == 0 {
-			t.Error(c.name, "always fails")
-		}
-	}
+	}, mazePools())
 }

@@ -545,25 +545,9 @@ func checkReachingFails(t *testing.T, m impl.Maze, first int) {
 func TestReachingIsTotal(t *testing.T) {
 	numbers := []int{0, 1, 2, 3, 5, 6, 11, 12, 13, 63, 64, -1, math.MaxInt, math.MinInt}
 	mazes := append(oddMazes(), mazeOf("1 0"), mazeOf("2 0,0"), mazeOf("2 1,0 0-1-1"), mazeOf("4 9,9,9,9 0-1-63 0-3-18 2-3-5"), chain(7), fullMaze())
-	for _, c := range []struct {
-		name     string
-		function any
-	}{
+	checkTotal(t, []named{
 		{"RoundsOf", impl.RoundsOf}, {"GainAtLast", impl.GainAtLast}, {"CanWin", impl.CanWin}, {"NodeRounds", impl.NodeRounds}, {"WinRound", impl.WinRound},
 		{"RequiredColours", impl.RequiredColours}, {"RequiredNodes", impl.RequiredNodes}, {"RequiredDoors", impl.RequiredDoors}, {"IdleNodes", impl.IdleNodes},
 		{"WithoutNode", impl.WithoutNode}, {"WithoutColour", impl.WithoutColour}, {"WithoutKeys", impl.WithoutKeys}, {"HelpfulColours", impl.HelpfulColours},
-	} {
-		succeeds := 0
-		checkCalls(t, c.name, c.function, []any{mazes, numbers}, func(args []any, ok bool) {
-			if m := args[0].(impl.Maze); ok && !plainIsMaze(m) {
-				t.Fatal(c.name, "does not fail for", textOf(m))
-			}
-			if ok {
-				succeeds++
-			}
-		})
-		if succeeds == 0 {
-			t.Error(c.name, "always fails")
-		}
-	}
+	}, []any{mazes, numbers})
 }
