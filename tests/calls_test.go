@@ -240,7 +240,7 @@ type named struct {
 }
 
 // checkTotal calls some functions with all arguments out of pools. Each one must succeed for some
-// of them, and fail for all Mazes, Works and Worlds that are not valid.
+// of them, and fail for all Mazes, Works, Worlds and Traps that are not valid.
 func checkTotal(t *testing.T, functions []named, pools []any) {
 	t.Helper()
 	for _, f := range functions {
@@ -255,6 +255,9 @@ func checkTotal(t *testing.T, functions []named, pools []any) {
 				}
 				if w, is := arg.(impl.Worlds); is && !plainIsWorlds(w) && ok {
 					t.Fatal(f.name, "does not fail for", worldsText(w))
+				}
+				if trap, is := arg.(impl.Trap); is && !plainIsTrap(trap) && ok {
+					t.Fatal(f.name, "does not fail for", trapText(trap))
 				}
 			}
 			if ok {
